@@ -14,7 +14,7 @@ const (
 
 // Bytes returns the bytes of an evidence: P10.1.
 func Bytes(e api.Evidence) []byte {
-	return written(nil, e.Kind, e.Program, e.Other, e.Logs, e.Tests, e.Contracts, e.Patch, e.Picks, e.Set, e.Places, e.Rest, e.Witness, e.Numbers)
+	return appended(nil, e.Kind, e.Program, e.Other, e.Logs, e.Tests, e.Contracts, e.Patch, e.Picks, e.Set, e.Places, e.Rest, e.Witness, e.Numbers)
 }
 
 // Digest returns the digest of an evidence: P10.1.
@@ -29,8 +29,8 @@ func Digest(e api.Evidence) uint64 {
 // Same reports whether two pieces of evidence are equal in all fields: P10.1.
 func Same(a, b api.Evidence) bool { return bytes.Equal(Bytes(a), Bytes(b)) } // by P10.5
 
-// written appends the bytes of some values.
-func written(b []byte, values ...any) []byte {
+// appended appends the bytes of some values.
+func appended(b []byte, values ...any) []byte {
 	for _, v := range values {
 		switch x := v.(type) {
 		case int:
@@ -88,23 +88,23 @@ func composed(b []byte, v any) []byte {
 	case []api.Place:
 		return list(b, x)
 	case api.Log:
-		return written(b, x.Picks, x.Inputs, x.Clocks, x.Steps, x.Sum)
+		return appended(b, x.Picks, x.Inputs, x.Clocks, x.Steps, x.Sum)
 	case api.Test:
-		return written(b, x.Given.Inputs, x.Given.Clocks, x.Given.Picks, x.Out)
+		return appended(b, x.Given.Inputs, x.Given.Clocks, x.Given.Picks, x.Out)
 	case api.Contract:
-		return written(b, x.At, x.Names, x.Claims)
+		return appended(b, x.At, x.Names, x.Claims)
 	case api.Invariant:
-		return written(b, x.Kind, x.A, x.B, x.K, x.M, x.Set)
+		return appended(b, x.Kind, x.A, x.B, x.K, x.M, x.Set)
 	case api.Patch:
 		return list(b, x.Edits)
 	case api.Edit:
-		return written(b, x.At, x.With)
+		return appended(b, x.At, x.With)
 	case api.Node:
-		return written(b, x.Kind, x.Text, x.Num, x.Subs, x.Params, x.Body, x.Else)
+		return appended(b, x.Kind, x.Text, x.Num, x.Subs, x.Params, x.Body, x.Else)
 	case api.Pick:
-		return written(b, x.Thread, x.Count)
+		return appended(b, x.Thread, x.Count)
 	case api.Place:
-		return written(b, x.Kind, x.A, x.B)
+		return appended(b, x.Kind, x.A, x.B)
 	}
 	return b
 }
@@ -113,7 +113,7 @@ func composed(b []byte, v any) []byte {
 func list[T any](b []byte, l []T) []byte {
 	b = number(b, uint64(len(l)))
 	for _, x := range l {
-		b = written(b, x)
+		b = appended(b, x)
 	}
 	return b
 }

@@ -104,21 +104,21 @@ func (l *line) mark() { l.refuseIf(l.word() != mark) }
 
 // numbers returns the numbers up to the mark, or the end.
 func (l *line) numbers() []int64 {
-	var list []int64
+	var numbers []int64
 	for l.more && !l.isMarked() {
-		list = append(list, l.number())
+		numbers = append(numbers, l.number())
 	}
-	return list
+	return numbers
 }
 
 // picks returns the pairs of counts up to the end.
 func (l *line) picks() []api.Pick {
-	var list []api.Pick
+	var picks []api.Pick
 	for l.more {
 		thread := l.count()
-		list = append(list, api.Pick{Thread: thread, Count: l.count()})
+		picks = append(picks, api.Pick{Thread: thread, Count: l.count()})
 	}
-	return list
+	return picks
 }
 
 // text returns everything up to the end.

@@ -213,10 +213,7 @@ func (x proof) isOfRepair() bool {
 	if e != api.OK || !repair.Accepts(j) || !slices.Equal(j.Changed, x.Set) {
 		return false
 	}
-	q, e := repair.Apply(x.program, x.Patch)
-	if e != api.OK {
-		return false
-	}
-	text, e := lang.Print(q)
-	return e == api.OK && text == x.Other
+	q, applyError := repair.Apply(x.program, x.Patch)
+	text, printError := lang.Print(q)
+	return applyError == api.OK && printError == api.OK && text == x.Other
 }

@@ -234,26 +234,34 @@ func manyPicks(t *testing.T, picks, each int) *session.Session {
 	return s
 }
 
-// P10.2: a schedule with too many picks, and one that has to be asked about more than MaxAsks times.
+// P10.2: a schedule with too many picks, and one of many picks that is minimized as a model does it.
 func TestShrinkLimits(t *testing.T) {
 	s := manyPicks(t, 300, 5)
-	expect(t, s, [2]string{"shrink m r 10000", "error 3"})
-	s = manyPicks(t, 240, 10)
-	expect(t, s,
-		[2]string{"shrink m r 10000", "error 9"},
-		[2]string{"shrink m r 2000", "error 7"},
-		[2]string{"verify", "verified 1"},
-	)
+	expect(t, s, [2]string{"shrink m r 10000", "error 3"}, [2]string{"shrink m r 65537", "error 1"})
 	s = manyPicks(t, 240, 40)
+	expect(t, s, [2]string{"shrink m r 2000", "error 7"}, [2]string{"verify", "verified 1"})
 	m := newModel()
-	m.name("p", parsed(t, "fun main() { }"))
-	m.programs["p"], _ = s.Program("p")
+	p, _ := s.Program("p")
+	m.name("p", p)
 	l, _ := s.Log("r")
-	m.keep("r", "p", l, repeated(m.programs["p"], l))
+	m.keep("r", "p", l, repeated(p, l))
 	want, _ := m.do("shrink m r 10000")
 	if a, e := s.Do("shrink m r 10000"); e != api.OK || a != want {
 		t.Errorf("%q, not %q", a, want)
 	}
+}
+
+// P10.2: a schedule that is asked about MaxAsks times, and one that would be asked about once more.
+func TestShrinkAsks(t *testing.T) {
+	// What w does in one loop, 13 steps, may not change places with what another w does; v may change places with everything. So all 64 preemptions of the threads 1 and 2 are asked, in vain, before each of 63 of the threads 3 and 4 that is not needed; and at the end those of the threads 5 and 6.
+	s := began(t, "program p fun w(o, n) { while 1 { o[0] = o[0] * 31 + n; } } fun v() { while 1 { } } fun main() { let o = new(1); spawn w(o, 1); spawn w(o, 2); spawn v(); spawn v(); spawn w(o, 3); spawn w(o, 4); print o[0]; }")
+	start := "0 19" + strings.Repeat(" 1 13 2 13", 32) + strings.Repeat(" 3 3 4 3", 64)
+	answer(t, s, "follow r p 5000 ; "+start+" 5 13 6 13 0 100")
+	answer(t, s, "follow t p 5000 ; "+start+" 5 13 6 13 5 13 0 100")
+	if a := answer(t, s, "shrink m r 5000"); !strings.HasPrefix(a, "shrink m: picks 70 end 1 fault 0 line 0 steps 1265 out ") {
+		t.Error(a)
+	}
+	expect(t, s, [2]string{"shrink n t 5000", "error 9"}, [2]string{"verify", "verified 3"})
 }
 
 // P10.2: lines that are of no form.

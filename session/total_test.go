@@ -213,10 +213,6 @@ func TestGreatNumbers(t *testing.T) {
 			for _, n := range great {
 				y := cloned(x)
 				y.Numbers[i] = n
-				if x.Kind == api.PrRepair && i == 1 && n > api.MaxGiven {
-					verified(t, "many inputs", y, api.ErrState)
-					continue
-				}
 				verified(t, "a great number", y, wanted(y))
 			}
 		}

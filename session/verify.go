@@ -80,9 +80,9 @@ func Verify(x api.Evidence) api.Errno {
 	if x.Kind == api.PrNone || x.Kind > api.PrRepair {
 		return api.ErrArg
 	}
-	p, e := programOf(x.Program)
+	p, correct := programOf(x.Program)
 	switch {
-	case e != api.OK:
+	case !correct:
 		return api.ErrForm
 	case !isFormed(x):
 		return api.ErrArg
@@ -104,17 +104,12 @@ func Verify(x api.Evidence) api.Errno {
 	return api.OK
 }
 
-// programOf returns the correct program with a written form.
-func programOf(text string) (api.Program, api.Errno) {
+// programOf returns the program with a written form, and whether there is such a program and it is correct.
+func programOf(text string) (api.Program, bool) {
 	p, _, e := lang.Parse(text)
-	if e == api.OK {
-		e = lang.Check(p)
+	if e != api.OK || lang.Check(p) != api.OK {
+		return api.Program{}, false
 	}
-	if e != api.OK {
-		return api.Program{}, e
-	}
-	if written, e := lang.Print(p); e != api.OK || written != text {
-		return api.Program{}, api.ErrForm
-	}
-	return p, api.OK
+	form, e := lang.Print(p)
+	return p, e == api.OK && form == text
 }

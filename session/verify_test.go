@@ -129,6 +129,7 @@ func TestVerifyRuns(t *testing.T) {
 		change{"no log of the program", func(x *api.Evidence) { x.Logs[0].Inputs[0] = 3 }, api.ErrState},
 		change{"another sum", func(x *api.Evidence) { x.Logs[0].Sum++ }, api.ErrState},
 		change{"an empty log", func(x *api.Evidence) { x.Logs[0] = api.Log{} }, api.ErrState},
+		change{"an empty log, and nothing of an outcome", func(x *api.Evidence) { x.Logs[0], x.Numbers = api.Log{}, make([]int64, 4) }, api.ErrState},
 	)
 	verifyChanges(t, api.PrValue,
 		numbersAre("the value", api.OK, 0, -1),
@@ -170,6 +171,55 @@ func TestVerifyRuns(t *testing.T) {
 		numbersAre("what comes behind the joins", api.ErrState, 0, 0, 31, 39),
 		change{"another sum", func(x *api.Evidence) { x.Logs[0].Sum++ }, api.ErrState},
 	)
+}
+
+// raceOf returns the evidence that two steps of a run of a program race at the cell 0 of an object.
+func raceOf(t *testing.T, program, follow string, object, a, b int64) api.Evidence {
+	t.Helper()
+	s := began(t, "program p "+program, "follow r p 200 ; "+follow)
+	x := last(t, s)
+	x.Kind, x.Numbers = api.PrRace, []int64{object, 0, a, b}
+	return x
+}
+
+// P10.1: steps that have no order, but of which one does not touch the cell, or makes what it is in.
+func TestVerifyNoRace(t *testing.T) {
+	const two = "fun w(o) { o[1] = 1; } fun main() { let o = new(2); let t = spawn w(o); o[0] = 2; print o[1]; print o[0]; }"
+	// Main stores into the cell 0 in step 9, loads the cell 1 in step 12 and the cell 0 in step 16; the thread stores into the cell 1 in step 21.
+	x := raceOf(t, two, "0 18 1 6", 0, 9, 21)
+	verified(t, "the second one stores into another cell", x, api.ErrState)
+	x.Numbers[1] = 1
+	verified(t, "the first one stores into another cell", x, api.ErrState)
+	x.Numbers[2] = 16
+	verified(t, "the first one loads another cell", x, api.ErrState)
+	x.Numbers[2] = 12
+	verified(t, "a load and a store", x, api.OK)
+
+	const made = "fun w(o) { o[0] = new(1); } fun main() { let o = new(1); let t = spawn w(o); let i = o[0]; print i[0]; }"
+	s := began(t, "program p "+made, "follow r p 200 ; 0 6 1 6 0 20")
+	if a := answer(t, s, "race r"); a != "race r: object 0 cell 0 steps 10 14 [X]" {
+		t.Error(a)
+	}
+	// The thread makes object 1 in step 9, and stores it in step 10; main loads it in step 14, and its cell in step 18.
+	verified(t, "the store and the load", raceOf(t, made, "0 6 1 6 0 20", 0, 10, 14), api.OK)
+	verified(t, "what makes the cell", raceOf(t, made, "0 6 1 6 0 20", 1, 9, 18), api.ErrState)
+	for a := range int64(20) {
+		for b := range int64(20) {
+			for object := range int64(3) {
+				x := raceOf(t, made, "0 6 1 6 0 20", object, a, b)
+				verified(t, "any two steps", x, wanted(x))
+			}
+		}
+	}
+}
+
+// P10.1: evidence of a cause goes on with what the passing run was given.
+func TestVerifyCauseInputs(t *testing.T) {
+	s := began(t, "program p fun main() { let n = input; let m = input; assert n < 3; print m; }", "run c p 99 1 7", "run d p 99 4 8", "cause c d 2 99")
+	x := last(t, s)
+	verified(t, "an input that is read later", x, api.OK)
+	x.Logs[0], x.Logs[1] = x.Logs[1], x.Logs[0]
+	verified(t, "the other way round, where the input is another one", x, api.ErrState)
 }
 
 // P10.1: evidence of schedules and diagnoses.
