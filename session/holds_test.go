@@ -108,11 +108,50 @@ func holds(p api.Program, x api.Evidence) bool {
 	case api.PrCause:
 		return holdsCause(p, x)
 	}
-	s := api.Suite{Tests: x.Tests, Contracts: x.Contracts, Domain: x.Numbers[2:], Inputs: int(x.Numbers[1]), Fuel: int(x.Numbers[0])}
-	j, e := repair.Judge(p, x.Patch, s)
-	q, _ := repair.Apply(p, x.Patch)
-	text, printError := lang.Print(q)
-	return e == api.OK && repair.Accepts(j) && slices.Equal(j.Changed, x.Set) && printError == api.OK && text == x.Other
+	return holdsRepair(p, x)
+}
+
+// holdsRepair runs the program and the patched one on everything: P0.7.
+func holdsRepair(p api.Program, x api.Evidence) bool {
+	fuel := int(x.Numbers[0])
+	s := api.Suite{Tests: x.Tests, Contracts: x.Contracts, Domain: x.Numbers[2:], Inputs: int(x.Numbers[1]), Fuel: fuel}
+	q, e := repair.Apply(p, x.Patch)
+	if e != api.OK || repair.CheckSuite(p, s) != api.OK {
+		return false
+	}
+	moved, _ := repair.Moved(p, x.Patch)
+	var contracts []api.Contract
+	for _, c := range x.Contracts {
+		c.At = moved[c.At]
+		if learn.CheckContract(q, c) != api.OK {
+			return false
+		}
+		contracts = append(contracts, c)
+	}
+	keeps := func(g api.Given) bool {
+		_, broken, _, e := learn.Keeps(q, contracts, g, fuel)
+		return e == api.OK && !broken
+	}
+	for _, t := range x.Tests {
+		if o, _ := machine.Run(q, t.Given, fuel); o.End != api.EnDone || !slices.Equal(o.Out, t.Out) || !keeps(t.Given) {
+			return false
+		}
+	}
+	var differ []int
+	runs, _ := repair.Runs(s)
+	for n, inputs := range runs {
+		g := api.Given{Inputs: inputs}
+		before, _ := machine.Run(p, g, fuel)
+		after, _ := machine.Run(q, g, fuel)
+		if before.End != after.End || before.Fault != after.Fault || before.Value != after.Value || !slices.Equal(before.Out, after.Out) {
+			differ = append(differ, n)
+		}
+		if !keeps(g) {
+			return false
+		}
+	}
+	text, e := lang.Print(q)
+	return e == api.OK && text == x.Other && slices.Equal(differ, x.Set)
 }
 
 // repeated returns the outcome of a log, by running what it was given.

@@ -186,7 +186,7 @@ func sessions(t *testing.T, count, length int, each func(seed int, lines, answer
 	}
 }
 
-// P10.2, P10.3, P10.4, P0.8: sessions answer what the chapter says, line by line; what they cite are the digests of their evidence, in order, and it holds.
+// P10.2, P10.3, P10.4, P0.7, P0.8: sessions answer what the chapter says, line by line; what they cite are the digests of their evidence, in order, and it holds.
 func TestSessions(t *testing.T) {
 	kinds, errors := map[string]int{}, map[api.Errno]int{}
 	sessions(t, 100, 60, func(_ int, lines, answers []string, m *model) {
